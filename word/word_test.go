@@ -161,25 +161,24 @@ func TestReadRunesAtTheBoundsOfUTF8(t *testing.T) {
 	}
 }
 
-func TestReadAgreesWithThePlainReading(t *testing.T) {
-	texts([]string{"a", "λ", "1", "0", "-", "→", " ", ";", "\n", "A", "\xff", "\uFFFD"}, 5, func(s string) {
+// agreer holds Read of a text against the plain reading of it.
+func agreer(t *testing.T) func(s string) {
+	return func(s string) {
 		l, line, col, e := Read(s)
 		wl, wline, wcol, we := plainRead(s)
 		if !slices.Equal(l, wl) || line != wline || col != wcol || e != we {
 			t.Fatalf("Read(%q) = %v, %d, %d, %d; plainly %v, %d, %d, %d", s, l, line, col, e, wl, wline, wcol, we)
 		}
-	})
+	}
+}
+
+func TestReadAgreesWithThePlainReading(t *testing.T) {
+	texts([]string{"a", "λ", "1", "0", "-", "→", " ", ";", "\n", "A", "\xff", "\uFFFD"}, 5, agreer(t))
 }
 
 func TestReadAgreesNearTheLimits(t *testing.T) {
 	long := []string{strings.Repeat("a", 15), strings.Repeat("1", 15), "1099511627776", "1099511627777", "-", "0", "a", " ", "\n", "é"}
-	texts(long, 4, func(s string) {
-		l, line, col, e := Read(s)
-		wl, wline, wcol, we := plainRead(s)
-		if !slices.Equal(l, wl) || line != wline || col != wcol || e != we {
-			t.Fatalf("Read(%q) = %v, %d, %d, %d; plainly %v, %d, %d, %d", s, l, line, col, e, wl, wline, wcol, we)
-		}
-	})
+	texts(long, 4, agreer(t))
 }
 
 func TestReadLongText(t *testing.T) {
