@@ -109,16 +109,52 @@ func TestIsSaved(t *testing.T) {
 	}
 }
 
-// A number that is no register is not saved, in a machine that is not right either; of a register it is asked whether it is one of Saved.
+// Whether it is one of Saved is all that counts, of whatever machine: not whether it is a register of it, nor what else is wrong.
 func TestIsSavedOfWrongMachines(t *testing.T) {
+	for _, x := range []struct {
+		m    api.Machine
+		reg  int
+		want bool
+	}{
+		{machine(0, []int{}, 0, []int{7}), 7, true}, {machine(0, []int{}, 0, []int{7}), 6, false}, {machine(0, []int{}, 0, []int{7}), 0, false},
+		{machine(4, nil, 0, []int{2, 4}), 4, true}, {machine(4, nil, 0, []int{2, 4}), 2, true}, {machine(4, nil, 0, []int{2, 4}), 3, false}, {machine(4, nil, 0, []int{2, 4}), 5, false},
+		{machine(0, nil, 0, []int{0}), 0, true}, {machine(0, nil, 0, nil), 0, false}, {machine(-1, nil, 0, []int{-1}), -1, true}, {machine(4, nil, 0, []int{-1, 3}), -1, true}, {machine(4, nil, 0, []int{-1, 3}), 3, true},
+		{machine(65, nil, 0, []int{1}), 1, true}, {machine(65, nil, 0, []int{64}), 64, true}, {machine(100, nil, 0, []int{80}), 80, true}, {machine(100, nil, 0, []int{80}), 79, false}, {machine(math.MinInt, nil, 0, []int{5}), 5, true},
+		{machine(4, nil, 1, []int{1}), 1, true}, {machine(4, nil, 9, []int{1}), 1, true}, {machine(4, []int{2, 2}, 0, []int{1}), 1, true}, {machine(4, []int{7}, 0, []int{1}), 7, false}, {machine(4, upTo(9), 0, []int{1}), 1, true},
+		{machine(4, nil, 0, []int{2, 1}), 1, true}, {machine(4, nil, 0, []int{1, 1}), 1, true}, {machine(2, nil, 0, upTo(70)), 69, true}, {machine(2, nil, 0, upTo(70)), 70, false},
+	} {
+		if IsSaved(x.m, x.reg) != x.want {
+			t.Errorf("%v, %d: %v", x.m, x.reg, !x.want)
+		}
+	}
 	m := machine(3, nil, 0, []int{2, 0, -1, 3, 70, math.MinInt, math.MaxInt})
-	for _, reg := range []int{-1, 1, 3, 70, math.MinInt, math.MaxInt} {
+	for _, reg := range m.Saved {
+		if !IsSaved(m, reg) {
+			t.Error(reg)
+		}
+	}
+	for _, reg := range []int{-70, -2, 1, 4, 69, 71, math.MinInt + 1, math.MaxInt - 1} {
 		if IsSaved(m, reg) {
 			t.Error(reg)
 		}
 	}
-	if !IsSaved(m, 2) || !IsSaved(m, 0) || IsSaved(machine(0, nil, 0, []int{0}), 0) || !IsSaved(machine(100, nil, 0, []int{80}), 80) {
-		t.Error("saved")
+}
+
+// Of all machines that are wrong in some other way, as of right ones, it is told alike.
+func TestIsSavedAgreesWithThePlainOne(t *testing.T) {
+	small(func(m api.Machine) {
+		for reg := -2; reg <= 4; reg++ {
+			if IsSaved(m, reg) != plainSaved(m, reg) {
+				t.Fatalf("%v, %d: %v", m, reg, IsSaved(m, reg))
+			}
+		}
+	})
+	for n, m := range wrongOnes() {
+		for _, reg := range []int{math.MinInt, -1, 0, 1, 2, 3, 4, 63, 64, 65, math.MaxInt} {
+			if IsSaved(m, reg) != plainSaved(m, reg) {
+				t.Fatalf("%d, %d: %v", n, reg, IsSaved(m, reg))
+			}
+		}
 	}
 }
 

@@ -29,6 +29,14 @@ func plainRight(m api.Machine) bool {
 	return isReg(m.Ret) && !slices.Contains(m.Saved, m.Ret)
 }
 
+// plainSaved asks nothing but Saved.
+func plainSaved(m api.Machine, reg int) (is bool) {
+	for _, s := range m.Saved {
+		is = is || s == reg
+	}
+	return is
+}
+
 func plainLost(m api.Machine) (l []int) {
 	if plainRight(m) {
 		l = slices.DeleteFunc(upTo(m.Regs), func(n int) bool { return slices.Contains(m.Saved, n) })
